@@ -178,3 +178,28 @@ func (a Rat) Floor() Rat {
 	}
 	return Whole(a.neg, quotient)
 }
+
+// Sum adds numbers up; of none it is 0.
+func Sum(numbers ...Rat) Rat {
+	if len(numbers) == 0 {
+		return Rat{}
+	}
+	return gather(Rat.Add, numbers)
+}
+
+// Product multiplies numbers with one another; of none it is 1.
+func Product(numbers ...Rat) Rat {
+	if len(numbers) == 0 {
+		return Whole(false, Word(1))
+	}
+	return gather(Rat.Mul, numbers)
+}
+
+// gather takes halves together, not one number after the other: so the long numbers are few.
+func gather(step func(a, b Rat) Rat, numbers []Rat) Rat {
+	if len(numbers) == 1 {
+		return numbers[0]
+	}
+	half := len(numbers) / 2
+	return step(gather(step, numbers[:half]), gather(step, numbers[half:]))
+}

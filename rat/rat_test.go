@@ -174,3 +174,27 @@ func TestRats(t *testing.T) {
 		}
 	}
 }
+
+func TestSumAndProduct(t *testing.T) {
+	if rat.Sum().Text() != "0" || rat.Product().Text() != "1" {
+		t.Errorf("of no numbers: %s, %s", rat.Sum().Text(), rat.Product().Text())
+	}
+	var d dice = 4
+	for count := range 60 {
+		sum, product := new(big.Rat), big.NewRat(1, 1)
+		var list []rat.Rat
+		for range count {
+			a := big.NewRat(int64(d.upTo(2000))-1000, int64(1+d.upTo(50)))
+			q, _ := rat.Parse(a.RatString())
+			list = append(list, q)
+			sum.Add(sum, a)
+			product.Mul(product, a)
+		}
+		if got := rat.Sum(list...).Text(); got != sum.RatString() {
+			t.Errorf("the sum of %d numbers is %s, want %v", count, got, sum)
+		}
+		if got := rat.Product(list...).Text(); got != product.RatString() {
+			t.Errorf("the product of %d numbers is %s, want %v", count, got, product)
+		}
+	}
+}

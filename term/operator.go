@@ -127,22 +127,13 @@ func (b *Bank) fold(op int, args []int) rat.Rat {
 	first, rest := values[0], values[1:]
 	switch {
 	case op == api.OpAdd:
-		return gather(rat.Rat.Add, values)
+		return rat.Sum(values...)
 	case op == api.OpMul:
-		return gather(rat.Rat.Mul, values)
+		return rat.Product(values...)
 	case op == api.OpDiv:
-		return first.Quo(gather(rat.Rat.Mul, rest))
+		return first.Quo(rat.Product(rest...))
 	case len(rest) == 0:
 		return first.Neg()
 	}
-	return first.Sub(gather(rat.Rat.Add, rest))
-}
-
-// gather takes halves together, not one number after the other: so the long numbers are few.
-func gather(step func(a, b rat.Rat) rat.Rat, values []rat.Rat) rat.Rat {
-	if len(values) == 1 {
-		return values[0]
-	}
-	half := len(values) / 2
-	return step(gather(step, values[:half]), gather(step, values[half:]))
+	return first.Sub(rat.Sum(rest...))
 }

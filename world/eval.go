@@ -1,0 +1,136 @@
+package world
+
+import (
+	"slices"
+
+	"arbiter/api"
+	"arbiter/rat"
+	"arbiter/walk"
+)
+
+// worths tells, by term, what the roots are worth.
+func worths(b api.Bank, tables []table, roots []int) []value {
+	needed := slices.Collect(walk.Up(roots, func(t int) []int { return b.Terms[t].Args }))
+	asked := make([]int, len(b.Terms)) // how often a term's value is still asked for
+	for _, t := range roots {
+		asked[t]++
+	}
+	for _, t := range needed {
+		for _, a := range b.Terms[t].Args {
+			asked[a]++
+		}
+	}
+	values := make([]value, len(b.Terms))
+	for _, t := range needed {
+		values[t] = worth(b.Terms[t], tables, values)
+		for _, a := range b.Terms[t].Args {
+			// A number can be as long as there are terms: it is let go of as soon as it has served.
+			if asked[a]--; asked[a] == 0 {
+				values[a] = nil
+			}
+		}
+	}
+	return values
+}
+
+// worth tells what a term is worth whose arguments have their values.
+func worth(t api.Term, tables []table, values []value) value {
+	args := make([]value, len(t.Args))
+	for i, a := range t.Args {
+		args[i] = values[a]
+	}
+	switch t.Op {
+	case api.OpNum:
+		q, _ := rat.Parse(t.Num)
+		return number{q}
+	case api.OpApp:
+		return tables[t.Fun].at(args)
+	case api.OpIte:
+		if isTrue(args[0]) {
+			return args[1]
+		}
+		return args[2]
+	case api.OpAdd, api.OpSub, api.OpMul, api.OpDiv:
+		return number{reckoned(t.Op, args)}
+	}
+	return truth(holds(t.Op, args))
+}
+
+// holds tells what an operator of sort Bool is worth.
+func holds(op int, args []value) bool {
+	last := len(args) - 1
+	switch op {
+	case api.OpTrue:
+		return true
+	case api.OpNot:
+		return !isTrue(args[0])
+	case api.OpImplies:
+		return isTrue(args[last]) || trues(args[:last]) < last
+	case api.OpAnd:
+		return trues(args) == len(args)
+	case api.OpOr:
+		return trues(args) > 0
+	case api.OpXor:
+		return trues(args)%2 == 1
+	case api.OpEq:
+		return neighbours(args, func(a, b value) bool { return a.same(b) })
+	case api.OpDistinct:
+		return distinct(args)
+	case api.OpLe:
+		return neighbours(args, func(a, b value) bool { return a.compare(b) <= 0 })
+	case api.OpLt:
+		return neighbours(args, func(a, b value) bool { return a.compare(b) < 0 })
+	case api.OpGe:
+		return neighbours(args, func(a, b value) bool { return a.compare(b) >= 0 })
+	case api.OpGt:
+		return neighbours(args, func(a, b value) bool { return a.compare(b) > 0 })
+	}
+	return false
+}
+
+func trues(args []value) int {
+	count := 0
+	for _, a := range args {
+		if isTrue(a) {
+			count++
+		}
+	}
+	return count
+}
+
+// neighbours tells whether each two neighbours are so.
+func neighbours(args []value, so func(a, b value) bool) bool {
+	for i := range len(args) - 1 {
+		if !so(args[i], args[i+1]) {
+			return false
+		}
+	}
+	return true
+}
+
+// distinct tells whether no two are the same. In order, the same ones are neighbours.
+func distinct(args []value) bool {
+	slices.SortFunc(args, inOrder)
+	return neighbours(args, func(a, b value) bool { return !a.same(b) })
+}
+
+// reckoned tells what an operator of arithmetic is worth; a divisor is never 0.
+func reckoned(op int, args []value) rat.Rat {
+	numbers := make([]rat.Rat, len(args))
+	for i, a := range args {
+		q, _ := a.(number)
+		numbers[i] = q.Rat
+	}
+	first, rest := numbers[0], numbers[1:]
+	switch {
+	case op == api.OpAdd:
+		return rat.Sum(numbers...)
+	case op == api.OpMul:
+		return rat.Product(numbers...)
+	case op == api.OpDiv:
+		return first.Quo(rat.Product(rest...))
+	case len(rest) == 0:
+		return first.Neg()
+	}
+	return first.Sub(rat.Sum(rest...))
+}
