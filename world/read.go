@@ -6,6 +6,7 @@ import (
 
 	"arbiter/api"
 	"arbiter/sexp"
+	"arbiter/worth"
 )
 
 // violation is what the reading gives up with, from however deep within.
@@ -163,11 +164,11 @@ func (r *reader) body(at int, f api.Fun, params map[string]int) api.Table {
 	for {
 		things, ok := r.behind(at, api.KindSymbol, "ite", 3)
 		if !ok || len(f.Args) == 0 {
-			t.Else = plain(r.value(at, f.Out))
+			t.Else = worth.Plain(r.value(at, f.Out))
 			return t
 		}
 		args := r.condition(things[0], f, params)
-		out := plain(r.value(things[1], f.Out))
+		out := worth.Plain(r.value(things[1], f.Out))
 		t.Rows = append(t.Rows, api.Row{Args: args, Out: out})
 		at = things[2]
 	}
@@ -191,7 +192,7 @@ func (r *reader) condition(at int, f api.Fun, params map[string]int) []api.Value
 			r.fail(api.ErrAgain, equation)
 		}
 		given[param] = true
-		args[param] = plain(r.value(side, f.Args[param]))
+		args[param] = worth.Plain(r.value(side, f.Args[param]))
 	}
 	return args
 }
@@ -212,41 +213,41 @@ func (r *reader) equation(at int, params map[string]int) (param, side int) {
 }
 
 // value reads a value of that sort.
-func (r *reader) value(at, sort int) value {
+func (r *reader) value(at, sort int) worth.Value {
 	v := r.anyValue(at, sort)
-	if v.sort() != sort {
+	if v.Sort() != sort {
 		r.fail(api.ErrSort, at)
 	}
 	return v
 }
 
-func (r *reader) anyValue(at, wanted int) value {
+func (r *reader) anyValue(at, wanted int) worth.Value {
 	if r.is(at, api.KindSymbol, "true") || r.is(at, api.KindSymbol, "false") {
-		return truth(r.nodes[at].Text == "true")
+		return worth.Truth(r.nodes[at].Text == "true")
 	}
 	if e, ok := r.element(at, wanted); ok {
 		return e
 	}
 	c := &constant{reader: r}
-	return number{c.read(at)}
+	return worth.Number{Rat: c.read(at)}
 }
 
 // nowhere is the sort of an element that is not of the wanted sort: which one it is of need not be known.
 const nowhere = -1
 
 // element tells the element that is written there, and whether one is.
-func (r *reader) element(at, wanted int) (element, bool) {
+func (r *reader) element(at, wanted int) (worth.Element, bool) {
 	things, ok := r.behind(at, api.KindWord, "as", 2)
 	if !ok || !r.areSymbols(things...) {
-		return element{}, false
+		return worth.Element{}, false
 	}
 	digits, marked := strings.CutPrefix(r.nodes[things[0]].Text, "@")
 	n, err := strconv.Atoi(digits)
 	if !marked || err != nil || n < 0 || strconv.Itoa(n) != digits {
-		return element{}, false
+		return worth.Element{}, false
 	}
 	if wanted < api.SortFirst || r.nodes[things[1]].Text != r.sortName(wanted) {
-		return element{nowhere, n}, true
+		return worth.Element{Of: nowhere, N: n}, true
 	}
-	return element{wanted, n}, true
+	return worth.Element{Of: wanted, N: n}, true
 }

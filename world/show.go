@@ -6,6 +6,7 @@ import (
 
 	"arbiter/api"
 	"arbiter/scan"
+	"arbiter/worth"
 )
 
 // sortNames tells, by sort, how its name is written; the empty text: it cannot be.
@@ -34,7 +35,7 @@ func areWritable(funs []api.Fun, sorts []string) bool {
 }
 
 // show writes tidy tables of functions that can be written.
-func show(funs []api.Fun, tables []table, sorts []string) string {
+func show(funs []api.Fun, tables []worth.Table, sorts []string) string {
 	w := &writer{sorts: sorts}
 	w.put("(\n")
 	for i, f := range funs {
@@ -55,11 +56,11 @@ func (w *writer) put(texts ...string) {
 	}
 }
 
-func (w *writer) value(v value) {
-	w.put(v.spell(w.sorts))
+func (w *writer) value(v worth.Value) {
+	w.put(v.Spell(w.sorts))
 }
 
-func (w *writer) definition(f api.Fun, t table) {
+func (w *writer) definition(f api.Fun, t worth.Table) {
 	name, _ := scan.Quote(f.Name)
 	w.put("  (define-fun ", name, " (")
 	for i, s := range f.Args {
@@ -74,19 +75,19 @@ func (w *writer) definition(f api.Fun, t table) {
 }
 
 // body nests as deep as there are rows; all of them close at its end.
-func (w *writer) body(t table) {
-	for _, r := range t.rows {
+func (w *writer) body(t worth.Table) {
+	for _, r := range t.Rows {
 		w.put("(ite ")
-		w.condition(r.args)
+		w.condition(r.Args)
 		w.put(" ")
-		w.value(r.out)
+		w.value(r.Out)
 		w.put(" ")
 	}
-	w.value(t.rest)
-	w.put(strings.Repeat(")", len(t.rows)))
+	w.value(t.Rest)
+	w.put(strings.Repeat(")", len(t.Rows)))
 }
 
-func (w *writer) condition(args []value) {
+func (w *writer) condition(args []worth.Value) {
 	if len(args) == 1 {
 		w.equation(0, args[0])
 		return
@@ -99,7 +100,7 @@ func (w *writer) condition(args []value) {
 	w.put(")")
 }
 
-func (w *writer) equation(i int, v value) {
+func (w *writer) equation(i int, v worth.Value) {
 	w.put("(= ", param(i), " ")
 	w.value(v)
 	w.put(")")
