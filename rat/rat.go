@@ -163,11 +163,18 @@ func (a Rat) Cmp(b Rat) int {
 		}
 		return 1
 	}
-	order := a.n.Mul(b.Lower()).Cmp(b.n.Mul(a.Lower()))
+	order := a.compareSizes(b)
 	if a.neg {
 		return -order
 	}
 	return order
+}
+
+func (a Rat) compareSizes(b Rat) int {
+	if a.IsWhole() && b.IsWhole() {
+		return a.n.Cmp(b.n)
+	}
+	return a.n.Mul(b.Lower()).Cmp(b.n.Mul(a.Lower()))
 }
 
 // Floor tells the greatest whole number that is not above a.
