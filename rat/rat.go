@@ -111,7 +111,12 @@ func (a Rat) Neg() Rat {
 
 // Add tells a + b.
 func (a Rat) Add(b Rat) Rat {
-	if a.IsWhole() && b.IsWhole() {
+	switch {
+	case a.n.IsZero():
+		return b
+	case b.n.IsZero():
+		return a
+	case a.IsWhole() && b.IsWhole():
 		return Whole(addSigned(a.neg, a.n, b.neg, b.n))
 	}
 	lowerA, lowerB := a.Lower(), b.Lower()
@@ -141,7 +146,10 @@ func (a Rat) Sub(b Rat) Rat {
 // Mul tells a times b.
 func (a Rat) Mul(b Rat) Rat {
 	neg := a.neg != b.neg
-	if a.IsWhole() && b.IsWhole() {
+	switch {
+	case a.n.IsZero() || b.n.IsZero():
+		return Rat{}
+	case a.IsWhole() && b.IsWhole():
 		return Whole(neg, a.n.Mul(b.n))
 	}
 	lowerA, lowerB := a.Lower(), b.Lower()

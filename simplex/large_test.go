@@ -342,3 +342,52 @@ func TestComeAndGo(t *testing.T) {
 		t.Error("B11: a tableau without bounds clashes")
 	}
 }
+
+// TestManyOut: very many short rows come out of their bounds at one time, and go on to do so as others are set right. The bounds are around a point that is known, so that they can hold, but some that now and then come on top.
+func TestManyOut(t *testing.T) {
+	points := manyOut(t)
+	if again := manyOut(t); !reflect.DeepEqual(points, again) {
+		t.Error("P0.5: the same calls, and other points")
+	}
+}
+
+func manyOut(t *testing.T) [][]api.Delta {
+	t.Helper()
+	const n, rows = 250, 600
+	rng := rand.New(rand.NewSource(4))
+	var forms []api.Lin
+	for range rows {
+		v := rng.Intn(n - 1)
+		w := v + 1 + rng.Intn(min(n-v-1, 20))
+		forms = append(forms, form("0", mono(v, "1"), mono(w, "-1")))
+	}
+	var points [][]api.Delta
+	x, p := start(t, n, forms...)
+	for round := range 8 {
+		at := rng.Perm(n)
+		gap := func(i int) int { return at[forms[i].M[0].V] - at[forms[i].M[1].V] }
+		push(x, p)
+		for i := range forms {
+			if (i+round)%4 > 0 {
+				say(t, x, p, lower(n+i, strconv.Itoa(gap(i)-round%3), "0", 2*i), upper(n+i, strconv.Itoa(gap(i)+round%2), "0", 2*i+1))
+			}
+		}
+		if ok, _ := check(t, x, p); !ok {
+			t.Fatalf("B5: the round %d: false", round)
+		}
+		push(x, p)
+		for i := range 3 {
+			v := round*rows/12 + i
+			say(t, x, p, upper(n+v, strconv.Itoa(gap(v)-i-2), "0", -1-i))
+		}
+		check(t, x, p)
+		pop(t, x, p, 1)
+		if ok, _ := check(t, x, p); !ok {
+			t.Fatalf("B11: the round %d, once more: false", round)
+		}
+		point, _ := x.Point()
+		points = append(points, point)
+		pop(t, x, p, 1)
+	}
+	return points
+}

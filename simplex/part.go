@@ -102,7 +102,7 @@ func (t *Tableau) spread(pairs []api.Both) ([]string, bool) {
 	woken := t.wakeAll(pairs)
 	mates := byVariable(pairs)
 	all := newSparse[delta]()
-	ok := true
+	ok, parted := true, uint64(0)
 	for _, pair := range pairs {
 		if t.gap(pair.A, pair.B).Sign() != 0 {
 			continue
@@ -112,8 +112,9 @@ func (t *Tableau) spread(pairs []api.Both) ([]string, bool) {
 			ok = false
 			break
 		}
+		parted++
 		moves := t.moves(w.v, w.stride())
-		moves.scale(t.pace(w.endless, moves, mates))
+		moves.scale(t.pace(parted, w.endless, moves, mates))
 		t.shift(moves)
 		all.addTimes(moves, one())
 	}
@@ -175,8 +176,8 @@ func middle(q rat.Rat) rat.Rat {
 	return between
 }
 
-// pace tells how often to take moves, or how much of them, so that no pair meets that is apart.
-func (t *Tableau) pace(endless bool, moves sparse[delta], mates map[int][]int) rat.Rat {
+// pace tells how often to take moves, or how much of them, so that no pair meets that is apart. It is another number each time, and sums of these numbers are mostly unlike: so variables part too that are in no pair, and that somebody may be about to ask for.
+func (t *Tableau) pace(first uint64, endless bool, moves sparse[delta], mates map[int][]int) rat.Rat {
 	var meet []rat.Rat
 	for a, by := range moves.of {
 		for _, b := range mates[a] {
@@ -186,15 +187,19 @@ func (t *Tableau) pace(endless bool, moves sparse[delta], mates map[int][]int) r
 		}
 	}
 	if endless {
-		return firstBut(meet, whole)
+		return nextBut(meet, first, cube)
 	}
-	return firstBut(meet, func(k uint64) rat.Rat { return one().Quo(whole(k)) })
+	return nextBut(meet, first, func(k uint64) rat.Rat { return one().Quo(whole(k)) })
 }
 
-// firstBut tells the first of endlessly many numbers, told by their places from 1 on, that is not among some.
-func firstBut(some []rat.Rat, at func(k uint64) rat.Rat) rat.Rat {
+func cube(k uint64) rat.Rat {
+	return rat.Product(whole(k), whole(k), whole(k))
+}
+
+// nextBut tells the first of endlessly many numbers, told by their places, that is not among some, from one place on.
+func nextBut(some []rat.Rat, first uint64, at func(k uint64) rat.Rat) rat.Rat {
 	slices.SortFunc(some, rat.Rat.Cmp)
-	for k := uint64(1); ; k++ {
+	for k := first; ; k++ {
 		number := at(k)
 		if _, found := slices.BinarySearchFunc(some, number, rat.Rat.Cmp); !found {
 			return number
@@ -212,7 +217,7 @@ func (t *Tableau) grain(pairs []api.Both) rat.Rat {
 		}
 	}
 	most := t.coarsest()
-	return firstBut(meet, func(k uint64) rat.Rat { return most.Quo(whole(k)) })
+	return nextBut(meet, 1, func(k uint64) rat.Rat { return most.Quo(whole(k)) })
 }
 
 // coarsest tells the greatest number that the infinitely small part can be taken for, so that the bounds hold.

@@ -160,6 +160,7 @@ func (t *Tableau) pivot(v, j int) {
 	r.turn(v, j)
 	users := t.vars[j].users
 	t.vars[j].users = nil
+	t.credit += len(users) * len(r.of)
 	for user := range users {
 		t.replace(user, j, r)
 	}

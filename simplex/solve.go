@@ -2,6 +2,7 @@ package simplex
 
 import (
 	"cmp"
+	"slices"
 
 	"arbiter/rat"
 )
@@ -16,7 +17,7 @@ func (t *Tableau) solve() []taken {
 	t.settle()
 	for steps := 0; ; steps++ {
 		least := steps >= t.patience()
-		v := t.worst(least)
+		v := t.next(least)
 		if v == none {
 			return nil
 		}
@@ -50,6 +51,23 @@ func (t *Tableau) watch(v int) {
 		t.vars[v].waiting = true
 		t.waiting = append(t.waiting, v)
 	}
+}
+
+// next tells a basic variable that is out of its bounds, or none. To look at all of them takes fewer steps, but is worth it only where a step takes long too.
+func (t *Tableau) next(least bool) int {
+	if most := len(t.waiting); least || most <= 100+t.credit {
+		t.credit = max(0, t.credit-most)
+		return t.worst(least)
+	}
+	for last := len(t.waiting) - 1; last >= 0; last-- {
+		v := t.waiting[last]
+		if bound, _ := t.vars[v].broken(); bound != nil {
+			return v
+		}
+		t.vars[v].waiting = false
+		t.waiting = t.waiting[:last]
+	}
+	return none
 }
 
 // worst tells the basic variable that is farthest out of its bounds, with least the least one that is out of them, or none. It forgets those that are within them again.
@@ -131,10 +149,12 @@ func (t *Tableau) moves(v int, by delta) sparse[delta] {
 
 // shift moves variables.
 func (t *Tableau) shift(moves sparse[delta]) {
+	before := len(t.waiting)
 	for v, by := range moves.of {
 		t.vars[v].at = t.vars[v].at.Add(by)
 		if t.vars[v].row != nil {
 			t.watch(v)
 		}
 	}
+	slices.Sort(t.waiting[before:])
 }

@@ -75,7 +75,9 @@ func (t *Tableau) worth(v int) delta {
 func (t *Tableau) asleep(v int) delta {
 	var at delta
 	for _, p := range t.forms[v-t.free].parts {
-		at = at.Add(t.vars[p.v].at.Mul(p.c))
+		if part := &t.vars[p.v].at; part.Sign() != 0 {
+			at = at.Add(part.Mul(p.c))
+		}
 	}
 	return at
 }
