@@ -10,6 +10,7 @@ import (
 	"arbiter/combine"
 	"arbiter/lin"
 	"arbiter/prep"
+	"arbiter/proof"
 )
 
 func form(k string, m ...api.Mono) api.Lin {
@@ -127,7 +128,7 @@ func follows(t *testing.T, g api.Goal, held []int, lemma api.Lemma, err api.Errn
 			t.Fatalf("O5: %v held: the lemma %v has %d\n%v", held, lemma, lit, g)
 		}
 	}
-	if fault := firstFault(g, lemma); fault >= 0 {
+	if err, fault := proof.Lemma(g, lemma); err != api.OK {
 		t.Fatalf("O5, O8: %v held: the step %d of the lemma %v does not follow\n%v", held, fault, lemma, g)
 	}
 }

@@ -2,7 +2,6 @@ package prep
 
 import (
 	"arbiter/api"
-	"arbiter/rat"
 	"arbiter/worth"
 )
 
@@ -34,46 +33,6 @@ func nodeValues(terms []api.Term, nodes []api.GNode, tables []worth.Table) []api
 		out = append(out, v)
 	}
 	return out
-}
-
-// point is what each node is worth.
-type point []worth.Value
-
-// pointOf tells the point that plain data is, and whether it is one of these nodes.
-func pointOf(nodes []api.GNode, values []api.Value) (point, bool) {
-	p := make(point, len(nodes))
-	for i, n := range nodes {
-		v, ok := worth.Of(values[i], n.Sort)
-		if !ok {
-			return nil, false
-		}
-		p[i] = v
-	}
-	return p, worth.IsTrue(p[0]) && !worth.IsTrue(p[1])
-}
-
-// meets tells whether an atom holds.
-func (p point) meets(a api.Atom) bool {
-	switch a.Kind {
-	case api.AtomTrue:
-		return worth.IsTrue(p[a.L])
-	case api.AtomEq:
-		return p[a.L].Same(p[a.R])
-	}
-	sign := p.reckon(a.Con.F).Sign()
-	return sign < 0 || sign == 0 && a.Con.Op == api.ConLe
-}
-
-// reckon tells what a form over nodes of sort Real is worth.
-func (p point) reckon(f api.Lin) rat.Rat {
-	k, _ := rat.Parse(f.K)
-	summands := []rat.Rat{k}
-	for _, mono := range f.M {
-		c, _ := rat.Parse(mono.C)
-		x, _ := p[mono.V].(worth.Number)
-		summands = append(summands, c.Mul(x.Rat))
-	}
-	return rat.Sum(summands...)
 }
 
 // formHolds tells whether a form holds where these atoms and earlier forms do.

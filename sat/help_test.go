@@ -320,3 +320,19 @@ func someClauses(rng *rand.Rand, vars, count int) [][]int {
 	}
 	return clauses
 }
+
+// pigeons is clauses that one pigeon more than holes cannot make true.
+func pigeons(holes int) api.Cnf {
+	c := api.Cnf{Vars: (holes + 1) * holes}
+	for p := range holes + 1 {
+		var some []int
+		for h := range holes {
+			some = append(some, p*holes+h+1)
+			for q := range p {
+				c.Clauses = append(c.Clauses, []int{-(p*holes + h + 1), -(q*holes + h + 1)})
+			}
+		}
+		c.Clauses = append(c.Clauses, some)
+	}
+	return c
+}

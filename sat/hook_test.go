@@ -7,6 +7,7 @@ import (
 	"testing"
 
 	"arbiter/api"
+	"arbiter/rup"
 	"arbiter/sat"
 )
 
@@ -152,7 +153,7 @@ func TestWhims(t *testing.T) {
 // Conflicts enough that the search begins anew and forgets, with a theory that says most of it.
 func TestTheoryOfPigeons(t *testing.T) {
 	const holes = 6
-	full := sat.Pigeons(holes)
+	full := pigeons(holes)
 	c := api.Cnf{Vars: full.Vars}
 	var hidden [][]int
 	for _, clause := range full.Clauses {
@@ -390,5 +391,23 @@ func TestGivenListsAreNotKept(t *testing.T) {
 		if s.Lemma >= 0 && !slices.Equal(s.Lits, given[s.Lemma]) {
 			t.Errorf("A1, A4: the clause %d was %v, and is told as %v", s.Lemma, given[s.Lemma], s.Lits)
 		}
+	}
+}
+
+// TestNeeded: what the end does not come from is no step.
+func TestNeeded(t *testing.T) {
+	c := api.Cnf{Vars: 4, Clauses: [][]int{{1, 2}}}
+	h := sat.Hook{Check: func(trail []int, full bool) [][]int { return [][]int{{3, 4}, {-1, 3}, {-1, -3}, {-2}} }}
+	o, err := sat.Solve(c, nil, h)
+	if err != api.OK || o.Sat || len(o.Failed) > 0 {
+		t.Fatalf("A4: %v, %d", o, err)
+	}
+	for _, step := range o.Steps {
+		if slices.Contains(step.Lits, 4) {
+			t.Errorf("A4: the step %v plays no part", step)
+		}
+	}
+	if e, at := rup.Check(c, o.Steps, nil); e != api.OK {
+		t.Errorf("A4: step %d of %v does not stand", at, o.Steps)
 	}
 }

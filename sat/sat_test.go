@@ -147,7 +147,7 @@ func TestHarder(t *testing.T) {
 
 // So many conflicts that learnt clauses are forgotten and learnt again.
 func TestForgotten(t *testing.T) {
-	c := sat.Pigeons(8)
+	c := pigeons(8)
 	o, e := sat.Solve(c, nil, sat.Hook{})
 	if e != api.OK || o.Sat || len(o.Failed) != 0 || len(o.Steps) < 6000 {
 		t.Fatalf("A4: nine pigeons in eight holes: %v, %d, %d steps", o.Sat, e, len(o.Steps))
@@ -169,7 +169,7 @@ func TestForgotten(t *testing.T) {
 }
 
 func TestPigeonsUnderAssumptions(t *testing.T) {
-	c := sat.Pigeons(5)
+	c := pigeons(5)
 	c.Vars += 2
 	for i, clause := range c.Clauses {
 		c.Clauses[i] = append(clause, -c.Vars) // they are asked for by the last variable alone

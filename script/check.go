@@ -2,6 +2,8 @@ package script
 
 import (
 	"arbiter/api"
+	"arbiter/intake"
+	"arbiter/names"
 	"arbiter/scan"
 	"arbiter/sexp"
 	"arbiter/term"
@@ -20,7 +22,7 @@ func Check(s api.Script) api.Errno {
 }
 
 func isScript(s api.Script) bool {
-	c := &checker{state: newState[int](), bank: s.Bank, cmds: s.Cmds}
+	c := &checker{State: names.NewState[int](), bank: s.Bank, cmds: s.Cmds}
 	for i := range s.Cmds {
 		if !c.command(i) {
 			return false
@@ -34,7 +36,7 @@ const isLabel = -1
 
 // checker goes through the commands of what may be a script of that bank.
 type checker struct {
-	state[int]
+	names.State[int]
 	bank   api.Bank
 	cmds   []api.Cmd
 	sorted int    // how many sorts are declared so far
@@ -72,11 +74,11 @@ func (c *checker) command(i int) bool {
 	case api.CmdValue:
 		ok, cmd.Terms = len(cmd.Terms) > 0 && c.areTerms(cmd.Terms), nil
 	case api.CmdPush:
-		ok, cmd.N = cmd.N >= 0 && c.push(cmd.N), 0
+		ok, cmd.N = cmd.N >= 0 && c.Push(cmd.N), 0
 	case api.CmdPop:
 		ok, cmd.N = cmd.N >= 0 && c.popLevels(i, cmd.N), 0
 	case api.CmdReset, api.CmdResetAssert:
-		c.bury(i, c.forget())
+		c.bury(i, c.Forget())
 		ok = true
 	case api.CmdExit:
 		ok = i == len(c.cmds)-1
@@ -86,7 +88,7 @@ func (c *checker) command(i int) bool {
 		ok = c.texts(cmd)
 		cmd.Name, cmd.Text = "", ""
 	}
-	c.pass(cmd.Kind)
+	c.Pass(cmd.Kind)
 	return ok && cmd.Name == "" && cmd.Text == "" && cmd.N == 0 && len(cmd.Terms) == 0
 }
 
@@ -94,7 +96,7 @@ func (c *checker) command(i int) bool {
 func (c *checker) texts(cmd api.Cmd) bool {
 	switch cmd.Kind {
 	case api.CmdSetLogic:
-		return isLogic(cmd.Name) && !c.begun && cmd.Text == ""
+		return names.IsLogic(cmd.Name) && !c.Begun && cmd.Text == ""
 	case api.CmdSetOption:
 		return isKeyword(cmd.Name) && isValueText(cmd.Text)
 	case api.CmdSetInfo:
@@ -115,7 +117,7 @@ func isKeyword(name string) bool {
 
 func isValueText(text string) bool {
 	nodes, err, _ := sexp.Read(text)
-	if err != api.OK || len(nodes) == 0 || nodes[0].Size != len(nodes) || !isValue(nodes[0]) {
+	if err != api.OK || len(nodes) == 0 || nodes[0].Size != len(nodes) || !intake.IsValue(nodes[0]) {
 		return false
 	}
 	written, err := sexp.Show(nodes)
@@ -132,10 +134,10 @@ func (c *checker) declareSort(sort int) bool {
 		return false
 	}
 	name := c.bank.Sorts[c.sorted]
-	if isReservedSort(name) || !isName(name) || c.sorts.knows(name) {
+	if names.IsReservedSort(name) || !isName(name) || c.Sorts.Knows(name) {
 		return false
 	}
-	c.sorts.put(name, sort)
+	c.Sorts.Put(name, sort)
 	c.sorted++
 	return true
 }
@@ -145,10 +147,10 @@ func (c *checker) declareFun(i, fun int) bool {
 		return false
 	}
 	f := c.bank.Funs[fun]
-	if isReserved(f.Name) || !isName(f.Name) || c.funs.knows(f.Name) || !c.knowsSorts(f.Out) || !c.knowsSorts(f.Args...) {
+	if names.IsReserved(f.Name) || !isName(f.Name) || c.Funs.Knows(f.Name) || !c.knowsSorts(f.Out) || !c.knowsSorts(f.Args...) {
 		return false
 	}
-	c.funs.put(f.Name, fun)
+	c.Funs.Put(f.Name, fun)
 	c.lives = append(c.lives, life{i, len(c.cmds)})
 	return true
 }
@@ -159,7 +161,7 @@ func (c *checker) knowsSorts(sorts ...int) bool {
 		if s < api.SortFirst {
 			continue
 		}
-		if known, ok := c.sorts.find(c.bank.Sorts[s-api.SortFirst]); !ok || known != s {
+		if known, ok := c.Sorts.Find(c.bank.Sorts[s-api.SortFirst]); !ok || known != s {
 			return false
 		}
 	}
@@ -170,15 +172,15 @@ func (c *checker) label(name string) bool {
 	if name == "" {
 		return true
 	}
-	if isReservedLabel(name) || !isName(name) || c.funs.knows(name) {
+	if names.IsReservedLabel(name) || !isName(name) || c.Funs.Knows(name) {
 		return false
 	}
-	c.funs.put(name, isLabel)
+	c.Funs.Put(name, isLabel)
 	return true
 }
 
 func (c *checker) popLevels(i, count int) bool {
-	gone, ok := c.pop(count)
+	gone, ok := c.Pop(count)
 	c.bury(i, gone)
 	return ok
 }

@@ -7,6 +7,7 @@ import (
 	"strings"
 
 	"arbiter/api"
+	"arbiter/names"
 	"arbiter/num"
 	"arbiter/term"
 	"arbiter/walk"
@@ -152,5 +153,5 @@ func (s *speller) head(t api.Term) string {
 	case api.OpApp:
 		return quoted(s.bank.Funs[t.Fun].Name)
 	}
-	return operatorNames[t.Op]
+	return names.OfOperator(t.Op)
 }

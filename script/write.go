@@ -5,6 +5,7 @@ import (
 	"strings"
 
 	"arbiter/api"
+	"arbiter/intake"
 	"arbiter/scan"
 )
 
@@ -13,15 +14,9 @@ func Print(s api.Script) (string, api.Errno) {
 	if err := Check(s); err != api.OK {
 		return "", err
 	}
-	words := map[int]command{}
-	for _, c := range commands() {
-		if _, ok := words[c.kind]; !ok {
-			words[c.kind] = c
-		}
-	}
 	var out strings.Builder
 	for _, c := range s.Cmds {
-		word := words[c.Kind].word
+		word := intake.Word(c.Kind)
 		if c.Kind == api.CmdFun && len(s.Bank.Funs[c.N].Args) == 0 {
 			word = "declare-const"
 		}

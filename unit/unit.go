@@ -1,4 +1,4 @@
-// Package unit holds literals, level upon level, and goes on from them by unit propagation over clauses: for sat and rup.
+// Package unit holds literals, level upon level, and goes on from them by unit propagation over clauses: for seek and rup.
 package unit
 
 import (

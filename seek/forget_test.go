@@ -1,4 +1,4 @@
-package sat
+package seek
 
 import (
 	"slices"
@@ -10,8 +10,8 @@ import (
 	"arbiter/unit"
 )
 
-// Pigeons is clauses that one pigeon more than holes cannot make true.
-func Pigeons(holes int) api.Cnf {
+// pigeons is clauses that one pigeon more than holes cannot make true.
+func pigeons(holes int) api.Cnf {
 	c := api.Cnf{Vars: (holes + 1) * holes}
 	for p := range holes + 1 {
 		var some []int
@@ -28,8 +28,8 @@ func Pigeons(holes int) api.Cnf {
 
 // A search with next to no room forgets all the time, and learns the same again: A5 and A4 hold all the same. (With the room that it has, it would take long to come there.)
 func TestLittleRoom(t *testing.T) {
-	lookOverLittleRoom(t, Pigeons(6), nil)
-	c := Pigeons(5)
+	lookOverLittleRoom(t, pigeons(6), nil)
+	c := pigeons(5)
 	c.Vars += 2
 	for i, clause := range c.Clauses {
 		c.Clauses[i] = append(clause, -c.Vars+i%2) // they are asked for by the last two variables
@@ -41,16 +41,16 @@ func lookOverLittleRoom(t *testing.T, c api.Cnf, assume []int) {
 	t.Helper()
 	s := newSearch(c.Vars, assume, Hook{})
 	for _, clause := range c.Clauses {
-		s.heed(s.state.Put(unit.Once(clause)))
+		s.heed(s.put(unit.Once(clause), none))
 	}
 	again := 0
 	now := open
 	for turns := 0; now == open; turns++ {
 		s.patience = 1
 		s.memory.room = 3 + turns/1000
-		lessons, steps := s.memory.fresh, len(s.steps)
+		lessons, steps := s.memory.fresh, len(s.record.list)
 		now = s.turn()
-		if s.memory.fresh > lessons && len(s.steps) == steps {
+		if s.memory.fresh > lessons && len(s.record.list) == steps {
 			again++
 		}
 	}
@@ -58,7 +58,7 @@ func lookOverLittleRoom(t *testing.T, c api.Cnf, assume []int) {
 		t.Fatalf("the answer is %d; %d clauses were forgotten, and %d times one was learnt again", now, len(s.memory.gone), again)
 	}
 	learnt := map[string]int{}
-	for i, step := range s.steps {
+	for i, step := range s.record.list {
 		sorted := slices.Sorted(slices.Values(step.Lits))
 		text := ""
 		for _, lit := range sorted {
@@ -73,7 +73,9 @@ func lookOverLittleRoom(t *testing.T, c api.Cnf, assume []int) {
 	for _, lit := range s.failed {
 		goal = append(goal, -lit)
 	}
-	if e, at := rup.Check(c, s.steps, goal); e != api.OK {
-		t.Errorf("A4: step %d does not stand", at)
+	for _, steps := range [][]api.Step{s.record.list, s.steps()} {
+		if e, at := rup.Check(c, steps, goal); e != api.OK {
+			t.Errorf("A4: of %d steps step %d does not stand", len(steps), at)
+		}
 	}
 }

@@ -1,4 +1,4 @@
-package sat
+package seek
 
 import (
 	"cmp"
@@ -29,14 +29,18 @@ type memory struct {
 	lessons []lesson       // those that play a part
 	fresh   int            // how many were learnt since some were forgotten
 	room    int            // at so many of these some are to be forgotten
-	gone    map[string]int // by its text: how often a clause was forgotten
+	gone    map[string]int // by its text: the step of a clause that was forgotten
 	levels  []int          // by level: the last spread that counted it
 	spreads int            // how many spreads were counted
 }
 
-// wasForgotten tells whether a clause like this one was learnt and forgotten.
-func (m *memory) wasForgotten(lits []int) bool {
-	return len(m.gone) > 0 && m.gone[textOf(unit.Once(lits))] > 0
+// forgotten tells the step of a clause like this one, if it was learnt and forgotten.
+func (m *memory) forgotten(lits []int) (int, bool) {
+	if len(m.gone) == 0 {
+		return none, false
+	}
+	step, ok := m.gone[textOf(unit.Once(lits))]
+	return step, ok
 }
 
 // textOf tells the text of literals that are in order.
@@ -82,7 +86,7 @@ func (s *search) forget() {
 		stay++
 	}
 	for _, l := range m.lessons[stay:] {
-		m.gone[textOf(unit.Once(s.state.Lits(l.clause)))]++
+		m.gone[textOf(unit.Once(s.state.Lits(l.clause)))] = s.record.steps[l.clause]
 		s.state.Mute(l.clause)
 	}
 	m.lessons = m.lessons[:stay]

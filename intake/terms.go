@@ -1,7 +1,8 @@
-package script
+package intake
 
 import (
 	"arbiter/api"
+	"arbiter/names"
 	"arbiter/num"
 )
 
@@ -18,19 +19,19 @@ func fixed(t int) maker {
 	}
 }
 
-func (r *reader) operated(op int) maker {
+func (r *Reader) operated(op int) maker {
 	return func(args []int) (int, api.Errno) {
 		return r.bank.Op(op, args)
 	}
 }
 
-func (r *reader) applied(fun int) maker {
+func (r *Reader) applied(fun int) maker {
 	return func(args []int) (int, api.Errno) {
 		return r.bank.App(fun, args)
 	}
 }
 
-func (r *reader) defined(body int, params []int) maker {
+func (r *Reader) defined(body int, params []int) maker {
 	return func(args []int) (int, api.Errno) {
 		t, err := r.bank.Subst(body, params, args)
 		if err == api.ErrCount {
@@ -40,19 +41,19 @@ func (r *reader) defined(body int, params []int) maker {
 	}
 }
 
-func (r *reader) meaning(name string) (maker, bool) {
-	if m, ok := r.bound.find(name); ok {
+func (r *Reader) meaning(name string) (maker, bool) {
+	if m, ok := r.bound.Find(name); ok {
 		return m, true
 	}
-	if op := operator(name); op != 0 {
+	if op := names.Operator(name); op != 0 {
 		return r.operated(op), true
 	}
-	return r.funs.find(name)
+	return r.known.Funs.Find(name)
 }
 
 // frame is a list of a term that is being read. Lists nest as deep as the text is long, so the open ones stand on a stack of the reader's own.
 type frame struct {
-	step  func(r *reader, f *frame) // what comes once all that was opened in the list has been read
+	step  func(r *Reader, f *frame) // what comes once all that was opened in the list has been read
 	at    int                       // the place of the list in the text
 	next  int                       // the node of the thing that comes next
 	end   int                       // the node behind the last one
@@ -64,7 +65,7 @@ type frame struct {
 }
 
 // termOf reads a term of that sort.
-func (r *reader) termOf(at, sort int) int {
+func (r *Reader) termOf(at, sort int) int {
 	t := r.term(at)
 	if view, _ := r.bank.View(t); view.Sort != sort {
 		fail(api.ErrSort, r.nodes[at].At)
@@ -73,7 +74,7 @@ func (r *reader) termOf(at, sort int) int {
 }
 
 // term reads a term.
-func (r *reader) term(at int) int {
+func (r *Reader) term(at int) int {
 	r.open(at)
 	for len(r.frames) > 0 {
 		top := &r.frames[len(r.frames)-1]
@@ -85,7 +86,7 @@ func (r *reader) term(at int) int {
 }
 
 // open begins to read the expression there: a list is put on the stack, of anything else the term is told at once.
-func (r *reader) open(at int) {
+func (r *Reader) open(at int) {
 	n := r.nodes[at]
 	if text, ok := r.constant(at); ok {
 		t, err := r.bank.Num(text)
@@ -109,12 +110,12 @@ func (r *reader) open(at int) {
 	}
 }
 
-func (r *reader) tell(t int) {
+func (r *Reader) tell(t int) {
 	r.read = append(r.read, t)
 }
 
 // constant tells the number that is written there: it is one term, however it is written.
-func (r *reader) constant(at int) (string, bool) {
+func (r *Reader) constant(at int) (string, bool) {
 	n := r.nodes[at]
 	if n.Kind != api.KindOpen {
 		return r.literal(at)
@@ -128,12 +129,12 @@ func (r *reader) constant(at int) (string, bool) {
 	return "", false
 }
 
-func (r *reader) isSymbol(at int, name string) bool {
+func (r *Reader) isSymbol(at int, name string) bool {
 	return r.nodes[at].Kind == api.KindSymbol && r.nodes[at].Text == name
 }
 
 // literal tells the number that a numeral or a decimal is.
-func (r *reader) literal(at int) (string, bool) {
+func (r *Reader) literal(at int) (string, bool) {
 	n := r.nodes[at]
 	if n.Kind != api.KindNumeral && n.Kind != api.KindDecimal {
 		return "", false
@@ -143,7 +144,7 @@ func (r *reader) literal(at int) (string, bool) {
 }
 
 // fraction tells the number of a list of four nodes that begins with a stroke.
-func (r *reader) fraction(at int) (string, bool) {
+func (r *Reader) fraction(at int) (string, bool) {
 	upper, ok := r.literal(at + 2)
 	if !ok {
 		return "", false
@@ -157,7 +158,7 @@ func (r *reader) fraction(at int) (string, bool) {
 }
 
 // opposite tells the opposite of a numeral, a decimal or a fraction; of no other constant, since that would be a sum of its own.
-func (r *reader) opposite(at int) (string, bool) {
+func (r *Reader) opposite(at int) (string, bool) {
 	n := r.nodes[at]
 	text, ok := r.literal(at)
 	if n.Kind == api.KindOpen && n.Size == 4 && r.isSymbol(at+1, "/") {
@@ -170,7 +171,7 @@ func (r *reader) opposite(at int) (string, bool) {
 	return text, err == api.OK
 }
 
-func (r *reader) openList(at int) {
+func (r *Reader) openList(at int) {
 	list := r.nodes[at]
 	if list.Size == 1 {
 		fail(api.ErrSyntax, list.At)
@@ -186,7 +187,7 @@ func (r *reader) openList(at int) {
 	}
 }
 
-func (r *reader) openWord(at int) {
+func (r *Reader) openWord(at int) {
 	list, head := r.nodes[at], r.nodes[at+1]
 	switch head.Text {
 	case "let":
@@ -198,7 +199,7 @@ func (r *reader) openWord(at int) {
 	}
 }
 
-func (r *reader) openCall(at int) {
+func (r *Reader) openCall(at int) {
 	list, head := r.nodes[at], r.nodes[at+1]
 	if list.Size == 2 {
 		fail(api.ErrSyntax, list.At)
@@ -207,11 +208,11 @@ func (r *reader) openCall(at int) {
 	if !ok {
 		fail(api.ErrUnknown, head.At)
 	}
-	r.frames = append(r.frames, frame{step: (*reader).call, at: list.At, next: at + 2, end: at + list.Size, base: len(r.read), means: m})
+	r.frames = append(r.frames, frame{step: (*Reader).call, at: list.At, next: at + 2, end: at + list.Size, base: len(r.read), means: m})
 }
 
 // call reads the next argument, or makes the term of those that have been read.
-func (r *reader) call(f *frame) {
+func (r *Reader) call(f *frame) {
 	if f.next < f.end {
 		r.open(r.advance(f))
 		return
@@ -224,17 +225,17 @@ func (r *reader) call(f *frame) {
 }
 
 // advance tells the thing that comes next, and goes on behind it. (What is opened then may move the stack that the frame stands on.)
-func (r *reader) advance(f *frame) int {
+func (r *Reader) advance(f *frame) int {
 	at := f.next
 	f.next += r.nodes[at].Size
 	return at
 }
 
-func (r *reader) close() {
+func (r *Reader) close() {
 	r.frames = r.frames[:len(r.frames)-1]
 }
 
-func (r *reader) openLet(at int) {
+func (r *Reader) openLet(at int) {
 	things := r.things(at)
 	if len(things) != 3 {
 		fail(api.ErrSyntax, r.nodes[at].At)
@@ -242,11 +243,11 @@ func (r *reader) openLet(at int) {
 	if list := r.want(things[1], api.KindOpen); list.Size == 1 {
 		fail(api.ErrSyntax, list.At)
 	}
-	r.frames = append(r.frames, frame{step: (*reader).bindings, next: things[1] + 1, end: things[2], base: len(r.read), seen: map[string]int{}})
+	r.frames = append(r.frames, frame{step: (*Reader).bindings, next: things[1] + 1, end: things[2], base: len(r.read), seen: map[string]int{}})
 }
 
 // bindings reads the next binding's term, or opens what stands behind the bindings, with all of them bound.
-func (r *reader) bindings(f *frame) {
+func (r *Reader) bindings(f *frame) {
 	if f.next < f.end {
 		two := r.pair(r.advance(f), f.seen)
 		f.seen[two.name] = len(f.names)
@@ -254,17 +255,17 @@ func (r *reader) bindings(f *frame) {
 		r.open(two.other)
 		return
 	}
-	f.outer = r.bound.size()
+	f.outer = r.bound.Size()
 	for i, name := range f.names {
-		r.bound.put(name, fixed(r.read[f.base+i]))
+		r.bound.Put(name, fixed(r.read[f.base+i]))
 	}
 	r.read = r.read[:f.base]
-	f.step = (*reader).leaveLet
+	f.step = (*Reader).leaveLet
 	r.open(f.end)
 }
 
 // leaveLet leaves the term as it is: a let stands for it.
-func (r *reader) leaveLet(f *frame) {
-	r.bound.back(f.outer)
+func (r *Reader) leaveLet(f *frame) {
+	r.bound.Back(f.outer)
 	r.close()
 }

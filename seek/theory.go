@@ -1,4 +1,4 @@
-package sat
+package seek
 
 import (
 	"slices"
@@ -53,11 +53,19 @@ func (t *theory) due(trail []int, full bool) bool {
 func (t *theory) ask(trail []int, full bool, vars int) {
 	t.tell(trail)
 	for _, given := range t.hook.Check(slices.Clone(trail), full) {
-		if areLiterals(given, vars) {
+		if AreLiterals(given, vars) {
 			t.queue = append(t.queue, lemma{t.count, slices.Clone(given)})
 		}
 		t.count++
 	}
+}
+
+// side tells on which side the theory sees a variable, if it does.
+func (t *theory) side(v int) int {
+	if t.hook.Side == nil {
+		return 0
+	}
+	return t.hook.Side(v)
 }
 
 // next takes the first lemma out of the queue.
@@ -91,6 +99,5 @@ func (s *search) take(l lemma) answer {
 		return open
 	}
 	s.theory.known[text] = l.number
-	s.steps = append(s.steps, api.Step{Lemma: l.number, Lits: l.lits})
-	return s.heed(s.state.Put(lits))
+	return s.heed(s.put(lits, s.record.add(api.Step{Lemma: l.number, Lits: l.lits}, 0)))
 }

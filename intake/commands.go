@@ -1,10 +1,12 @@
-package script
+package intake
 
 import (
 	"math"
+	"slices"
 	"strconv"
 
 	"arbiter/api"
+	"arbiter/names"
 	"arbiter/sexp"
 )
 
@@ -15,47 +17,53 @@ type command struct {
 	word        string
 	kind        int
 	least, most int
-	read        func(r *reader, c api.Cmd, things []int) api.Cmd
+	read        func(r *Reader, c api.Cmd, things []int) api.Cmd
 }
 
 func commands() []command {
 	return []command{
-		{"set-logic", api.CmdSetLogic, 2, 2, (*reader).setLogic},
-		{"set-option", api.CmdSetOption, 3, 3, (*reader).attribute},
-		{"set-info", api.CmdSetInfo, 2, 3, (*reader).attribute},
-		{"get-info", api.CmdGetInfo, 2, 2, (*reader).attribute},
-		{"get-option", api.CmdGetOption, 2, 2, (*reader).attribute},
-		{"declare-sort", api.CmdSort, 3, 3, (*reader).declareSort},
-		{"declare-fun", api.CmdFun, 4, 4, (*reader).declareFun},
-		{"declare-const", api.CmdFun, 3, 3, (*reader).declareConst},
-		{"define-sort", 0, 4, 4, (*reader).defineSort},
-		{"define-fun", 0, 5, 5, (*reader).defineFun},
-		{"define-const", 0, 4, 4, (*reader).defineConst},
-		{"assert", api.CmdAssert, 2, 2, (*reader).assert},
-		{"check-sat", api.CmdCheck, 1, 1, (*reader).plain},
-		{"check-sat-assuming", api.CmdAssuming, 2, 2, (*reader).assuming},
-		{"get-model", api.CmdModel, 1, 1, (*reader).plain},
-		{"get-value", api.CmdValue, 2, 2, (*reader).values},
-		{"get-unsat-core", api.CmdCore, 1, 1, (*reader).plain},
-		{"get-unsat-assumptions", api.CmdFailed, 1, 1, (*reader).plain},
-		{"get-proof", api.CmdProof, 1, 1, (*reader).plain},
-		{"get-assertions", api.CmdAssertions, 1, 1, (*reader).plain},
-		{"push", api.CmdPush, 2, 2, (*reader).pushLevels},
-		{"pop", api.CmdPop, 2, 2, (*reader).popLevels},
-		{"reset", api.CmdReset, 1, 1, (*reader).forgetAll},
-		{"reset-assertions", api.CmdResetAssert, 1, 1, (*reader).forgetAll},
-		{"echo", api.CmdEcho, 2, 2, (*reader).echo},
-		{"exit", api.CmdExit, 1, 1, (*reader).plain},
-		{"get-assignment", 0, 1, many, (*reader).refuse},
-		{"declare-datatype", 0, 1, many, (*reader).refuse},
-		{"declare-datatypes", 0, 1, many, (*reader).refuse},
-		{"define-fun-rec", 0, 1, many, (*reader).refuse},
-		{"define-funs-rec", 0, 1, many, (*reader).refuse},
+		{"set-logic", api.CmdSetLogic, 2, 2, (*Reader).setLogic},
+		{"set-option", api.CmdSetOption, 3, 3, (*Reader).attribute},
+		{"set-info", api.CmdSetInfo, 2, 3, (*Reader).attribute},
+		{"get-info", api.CmdGetInfo, 2, 2, (*Reader).attribute},
+		{"get-option", api.CmdGetOption, 2, 2, (*Reader).attribute},
+		{"declare-sort", api.CmdSort, 3, 3, (*Reader).declareSort},
+		{"declare-fun", api.CmdFun, 4, 4, (*Reader).declareFun},
+		{"declare-const", api.CmdFun, 3, 3, (*Reader).declareConst},
+		{"define-sort", 0, 4, 4, (*Reader).defineSort},
+		{"define-fun", 0, 5, 5, (*Reader).defineFun},
+		{"define-const", 0, 4, 4, (*Reader).defineConst},
+		{"assert", api.CmdAssert, 2, 2, (*Reader).assert},
+		{"check-sat", api.CmdCheck, 1, 1, (*Reader).plain},
+		{"check-sat-assuming", api.CmdAssuming, 2, 2, (*Reader).assuming},
+		{"get-model", api.CmdModel, 1, 1, (*Reader).plain},
+		{"get-value", api.CmdValue, 2, 2, (*Reader).values},
+		{"get-unsat-core", api.CmdCore, 1, 1, (*Reader).plain},
+		{"get-unsat-assumptions", api.CmdFailed, 1, 1, (*Reader).plain},
+		{"get-proof", api.CmdProof, 1, 1, (*Reader).plain},
+		{"get-assertions", api.CmdAssertions, 1, 1, (*Reader).plain},
+		{"push", api.CmdPush, 2, 2, (*Reader).pushLevels},
+		{"pop", api.CmdPop, 2, 2, (*Reader).popLevels},
+		{"reset", api.CmdReset, 1, 1, (*Reader).forgetAll},
+		{"reset-assertions", api.CmdResetAssert, 1, 1, (*Reader).forgetAll},
+		{"echo", api.CmdEcho, 2, 2, (*Reader).echo},
+		{"exit", api.CmdExit, 1, 1, (*Reader).plain},
+		{"get-assignment", 0, 1, many, (*Reader).refuse},
+		{"declare-datatype", 0, 1, many, (*Reader).refuse},
+		{"declare-datatypes", 0, 1, many, (*Reader).refuse},
+		{"define-fun-rec", 0, 1, many, (*Reader).refuse},
+		{"define-funs-rec", 0, 1, many, (*Reader).refuse},
 	}
 }
 
-// command reads the command that is the expression there, and tells its kind.
-func (r *reader) command(at int) int {
+// Word tells the word with which the list of a command of that kind begins; of a declared function that of one with arguments.
+func Word(kind int) string {
+	list := commands()
+	return list[slices.IndexFunc(list, func(c command) bool { return c.kind == kind })].word
+}
+
+// command reads the command that is the expression there.
+func (r *Reader) command(at int) api.Cmd {
 	list := r.nodes[at]
 	if list.Kind != api.KindOpen || list.Size == 1 {
 		fail(api.ErrSyntax, list.At)
@@ -73,15 +81,12 @@ func (r *reader) command(at int) int {
 		fail(api.ErrSyntax, list.At)
 	}
 	c := found.read(r, api.Cmd{Kind: found.kind, At: list.At}, things)
-	if c.Kind != 0 {
-		r.cmds = append(r.cmds, c)
-	}
-	r.pass(c.Kind)
-	return c.Kind
+	r.known.Pass(c.Kind)
+	return c
 }
 
 // things tells where the expressions in a list stand; of an atom none.
-func (r *reader) things(at int) []int {
+func (r *Reader) things(at int) []int {
 	var list []int
 	for thing := at + 1; thing < at+r.nodes[at].Size; thing += r.nodes[thing].Size {
 		list = append(list, thing)
@@ -90,7 +95,7 @@ func (r *reader) things(at int) []int {
 }
 
 // want tells a thing that is of that kind.
-func (r *reader) want(at, kind int) api.Node {
+func (r *Reader) want(at, kind int) api.Node {
 	n := r.nodes[at]
 	if n.Kind != kind {
 		fail(api.ErrSyntax, n.At)
@@ -98,28 +103,28 @@ func (r *reader) want(at, kind int) api.Node {
 	return n
 }
 
-func (r *reader) plain(c api.Cmd, things []int) api.Cmd {
+func (r *Reader) plain(c api.Cmd, things []int) api.Cmd {
 	return c
 }
 
-func (r *reader) refuse(c api.Cmd, things []int) api.Cmd {
+func (r *Reader) refuse(c api.Cmd, things []int) api.Cmd {
 	fail(api.ErrCommand, c.At)
 	return c
 }
 
-func (r *reader) setLogic(c api.Cmd, things []int) api.Cmd {
+func (r *Reader) setLogic(c api.Cmd, things []int) api.Cmd {
 	name := r.want(things[1], api.KindSymbol)
-	if !isLogic(name.Text) {
+	if !names.IsLogic(name.Text) {
 		fail(api.ErrCommand, name.At)
 	}
-	if r.begun {
+	if r.known.Begun {
 		fail(api.ErrMode, c.At)
 	}
 	c.Name = name.Text
 	return c
 }
 
-func (r *reader) attribute(c api.Cmd, things []int) api.Cmd {
+func (r *Reader) attribute(c api.Cmd, things []int) api.Cmd {
 	c.Name = r.want(things[1], api.KindKeyword).Text
 	if len(things) > 2 {
 		c.Text = r.attributeValue(things[2])
@@ -127,21 +132,22 @@ func (r *reader) attribute(c api.Cmd, things []int) api.Cmd {
 	return c
 }
 
-func (r *reader) attributeValue(at int) string {
+func (r *Reader) attributeValue(at int) string {
 	n := r.nodes[at]
-	if !isValue(n) {
+	if !IsValue(n) {
 		fail(api.ErrSyntax, n.At)
 	}
 	text, _ := sexp.Show(r.nodes[at : at+n.Size])
 	return text[:len(text)-1]
 }
 
-func isValue(n api.Node) bool {
+// IsValue tells whether an expression may be the value of an option or an info.
+func IsValue(n api.Node) bool {
 	return n.Kind != api.KindKeyword && n.Kind != api.KindWord
 }
 
 // newName tells a name that may be given there.
-func (r *reader) newName(at int, reserved, known func(name string) bool) string {
+func (r *Reader) newName(at int, reserved, known func(name string) bool) string {
 	name := r.want(at, api.KindSymbol)
 	if reserved(name.Text) {
 		fail(api.ErrReserved, name.At)
@@ -152,51 +158,52 @@ func (r *reader) newName(at int, reserved, known func(name string) bool) string 
 	return name.Text
 }
 
-func (r *reader) newSort(at int) string {
-	return r.newName(at, isReservedSort, r.sorts.knows)
+func (r *Reader) newSort(at int) string {
+	return r.newName(at, names.IsReservedSort, r.known.Sorts.Knows)
 }
 
-func (r *reader) newFun(at int) string {
-	return r.newName(at, isReserved, r.funs.knows)
+func (r *Reader) newFun(at int) string {
+	return r.newName(at, names.IsReserved, r.known.Funs.Knows)
 }
 
-func (r *reader) newLabel(at int) string {
-	return r.newName(at, isReservedLabel, r.funs.knows)
+func (r *Reader) newLabel(at int) string {
+	return r.newName(at, names.IsReservedLabel, r.known.Funs.Knows)
 }
 
 // sortAt reads a sort.
-func (r *reader) sortAt(at int) int {
+func (r *Reader) sortAt(at int) int {
 	n := r.nodes[at]
 	if n.Kind == api.KindOpen {
 		fail(api.ErrCommand, n.At)
 	}
-	sort, ok := r.sort(r.want(at, api.KindSymbol).Text)
+	sort, ok := r.known.Sort(r.want(at, api.KindSymbol).Text)
 	if !ok {
 		fail(api.ErrUnknown, n.At)
 	}
 	return sort
 }
 
-func (r *reader) declareSort(c api.Cmd, things []int) api.Cmd {
+func (r *Reader) declareSort(c api.Cmd, things []int) api.Cmd {
 	name := r.newSort(things[1])
 	if count := r.want(things[2], api.KindNumeral); count.Text != "0" {
 		fail(api.ErrCommand, count.At)
 	}
 	c.N = r.bank.Sort(name)
-	r.sorts.put(name, c.N)
+	r.sorts = append(r.sorts, name)
+	r.known.Sorts.Put(name, c.N)
 	return c
 }
 
-func (r *reader) defineSort(c api.Cmd, things []int) api.Cmd {
+func (r *Reader) defineSort(c api.Cmd, things []int) api.Cmd {
 	name := r.newSort(things[1])
 	if params := r.want(things[2], api.KindOpen); params.Size > 1 {
 		fail(api.ErrCommand, params.At)
 	}
-	r.sorts.put(name, r.sortAt(things[3]))
+	r.known.Sorts.Put(name, r.sortAt(things[3]))
 	return c
 }
 
-func (r *reader) declareFun(c api.Cmd, things []int) api.Cmd {
+func (r *Reader) declareFun(c api.Cmd, things []int) api.Cmd {
 	name := r.newFun(things[1])
 	r.want(things[2], api.KindOpen)
 	var args []int
@@ -206,16 +213,17 @@ func (r *reader) declareFun(c api.Cmd, things []int) api.Cmd {
 	return r.declare(c, name, args, r.sortAt(things[3]))
 }
 
-func (r *reader) declareConst(c api.Cmd, things []int) api.Cmd {
+func (r *Reader) declareConst(c api.Cmd, things []int) api.Cmd {
 	name := r.newFun(things[1])
 	return r.declare(c, name, nil, r.sortAt(things[2]))
 }
 
-func (r *reader) declare(c api.Cmd, name string, args []int, out int) api.Cmd {
+func (r *Reader) declare(c api.Cmd, name string, args []int, out int) api.Cmd {
 	fun, _ := r.bank.Fun(name, args, out)
-	c.N = len(r.declared)
-	r.declared = append(r.declared, fun)
-	r.funs.put(name, r.applied(fun))
+	c.N = len(r.funs)
+	r.numbers[fun] = c.N
+	r.funs = append(r.funs, api.Fun{Name: name, Args: args, Out: out})
+	r.known.Funs.Put(name, r.applied(fun))
 	return c
 }
 
@@ -225,7 +233,7 @@ type param struct {
 	sort int
 }
 
-func (r *reader) params(at int) []param {
+func (r *Reader) params(at int) []param {
 	r.want(at, api.KindOpen)
 	var list []param
 	seen := map[string]int{}
@@ -244,30 +252,30 @@ type named struct {
 }
 
 // pair tells a list that binds a name, which those seen to the left do not have.
-func (r *reader) pair(at int, seen map[string]int) named {
+func (r *Reader) pair(at int, seen map[string]int) named {
 	things := r.things(at)
 	if len(things) != 2 {
 		fail(api.ErrSyntax, r.nodes[at].At)
 	}
-	name := r.newName(things[0], isReserved, func(name string) bool {
+	name := r.newName(things[0], names.IsReserved, func(name string) bool {
 		_, ok := seen[name]
 		return ok
 	})
 	return named{name, things[1]}
 }
 
-func (r *reader) defineFun(c api.Cmd, things []int) api.Cmd {
+func (r *Reader) defineFun(c api.Cmd, things []int) api.Cmd {
 	name := r.newFun(things[1])
 	params := r.params(things[2])
 	return r.define(c, name, params, r.sortAt(things[3]), things[4])
 }
 
-func (r *reader) defineConst(c api.Cmd, things []int) api.Cmd {
+func (r *Reader) defineConst(c api.Cmd, things []int) api.Cmd {
 	name := r.newFun(things[1])
 	return r.define(c, name, nil, r.sortAt(things[2]), things[3])
 }
 
-func (r *reader) define(c api.Cmd, name string, params []param, out, body int) api.Cmd {
+func (r *Reader) define(c api.Cmd, name string, params []param, out, body int) api.Cmd {
 	var terms []int
 	for _, p := range params {
 		fun, _ := r.bank.Fun(p.name, nil, p.sort)
@@ -275,15 +283,15 @@ func (r *reader) define(c api.Cmd, name string, params []param, out, body int) a
 		terms = append(terms, must(t, err, c.At))
 	}
 	for i, p := range params {
-		r.bound.put(p.name, fixed(terms[i]))
+		r.bound.Put(p.name, fixed(terms[i]))
 	}
 	t := r.termOf(body, out)
-	r.bound.back(0)
-	r.funs.put(name, r.defined(t, terms))
+	r.bound.Back(0)
+	r.known.Funs.Put(name, r.defined(t, terms))
 	return c
 }
 
-func (r *reader) assert(c api.Cmd, things []int) api.Cmd {
+func (r *Reader) assert(c api.Cmd, things []int) api.Cmd {
 	label := r.labelled(things[1])
 	if label == nil {
 		c.Terms = []int{r.termOf(things[1], api.SortBool)}
@@ -292,12 +300,12 @@ func (r *reader) assert(c api.Cmd, things []int) api.Cmd {
 	t := r.termOf(label[1], api.SortBool)
 	c.Terms = []int{t}
 	c.Name = r.newLabel(label[3])
-	r.funs.put(c.Name, fixed(t))
+	r.known.Funs.Put(c.Name, fixed(t))
 	return c
 }
 
 // labelled tells the four things of an assertion with a label; nil: it has none.
-func (r *reader) labelled(at int) []int {
+func (r *Reader) labelled(at int) []int {
 	things := r.things(at)
 	if len(things) != 4 {
 		return nil
@@ -309,7 +317,7 @@ func (r *reader) labelled(at int) []int {
 	return things
 }
 
-func (r *reader) assuming(c api.Cmd, things []int) api.Cmd {
+func (r *Reader) assuming(c api.Cmd, things []int) api.Cmd {
 	r.want(things[1], api.KindOpen)
 	for _, at := range r.things(things[1]) {
 		c.Terms = append(c.Terms, r.termOf(at, api.SortBool))
@@ -317,7 +325,7 @@ func (r *reader) assuming(c api.Cmd, things []int) api.Cmd {
 	return c
 }
 
-func (r *reader) values(c api.Cmd, things []int) api.Cmd {
+func (r *Reader) values(c api.Cmd, things []int) api.Cmd {
 	if list := r.want(things[1], api.KindOpen); list.Size == 1 {
 		fail(api.ErrSyntax, list.At)
 	}
@@ -327,24 +335,24 @@ func (r *reader) values(c api.Cmd, things []int) api.Cmd {
 	return c
 }
 
-func (r *reader) pushLevels(c api.Cmd, things []int) api.Cmd {
+func (r *Reader) pushLevels(c api.Cmd, things []int) api.Cmd {
 	c.N = r.count(things[1])
-	if !r.push(c.N) {
+	if !r.known.Push(c.N) {
 		fail(api.ErrLimit, c.At)
 	}
 	return c
 }
 
-func (r *reader) popLevels(c api.Cmd, things []int) api.Cmd {
+func (r *Reader) popLevels(c api.Cmd, things []int) api.Cmd {
 	c.N = r.count(things[1])
-	if _, ok := r.pop(c.N); !ok {
+	if _, ok := r.known.Pop(c.N); !ok {
 		fail(api.ErrMode, c.At)
 	}
 	return c
 }
 
 // count reads a number of levels. One that is too long for an int is above every number of levels all the same.
-func (r *reader) count(at int) int {
+func (r *Reader) count(at int) int {
 	n, err := strconv.Atoi(r.want(at, api.KindNumeral).Text)
 	if err != nil {
 		return math.MaxInt
@@ -352,12 +360,12 @@ func (r *reader) count(at int) int {
 	return n
 }
 
-func (r *reader) forgetAll(c api.Cmd, things []int) api.Cmd {
-	r.forget()
+func (r *Reader) forgetAll(c api.Cmd, things []int) api.Cmd {
+	r.known.Forget()
 	return c
 }
 
-func (r *reader) echo(c api.Cmd, things []int) api.Cmd {
+func (r *Reader) echo(c api.Cmd, things []int) api.Cmd {
 	c.Name = r.want(things[1], api.KindString).Text
 	return c
 }

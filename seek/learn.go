@@ -1,4 +1,4 @@
-package sat
+package seek
 
 import (
 	"slices"
@@ -10,16 +10,19 @@ import (
 // learn learns a clause from one that is false, of which two literals or more are of the level that is open, and goes back to where it says something.
 func (s *search) learn(clash int) answer {
 	if s.state.Level() == 0 {
+		s.record.use(clash)
 		return refuted
 	}
 	lits := s.thin(s.resolve(clash))
 	clear(s.marks)
 	s.order.Decay()
 	s.conflicts++
-	if !s.memory.wasForgotten(lits) {
-		s.steps = append(s.steps, api.Step{Lemma: -1, Lits: lits})
+	step, again := s.memory.forgotten(lits)
+	if !again {
+		step = s.record.add(api.Step{Lemma: -1, Lits: lits}, s.state.Start(1))
 	}
-	clause := s.state.Put(slices.Clone(lits))
+	s.record.used = nil
+	clause := s.put(slices.Clone(lits), step)
 	s.remember(clause)
 	return s.heed(clause)
 }
@@ -43,6 +46,7 @@ func (s *search) resolve(clash int) []int {
 
 // gather touches the literals of a clause: those of earlier levels are put behind lits, those of the open level are counted.
 func (s *search) gather(lits []int, clause int) ([]int, int) {
+	s.record.use(clause)
 	count := 0
 	for _, lit := range s.state.Lits(clause) {
 		if !s.touch(lit) {
@@ -91,11 +95,13 @@ func (s *search) follows(lit int) bool {
 			return false
 		}
 	}
+	s.record.use(reason)
 	return true
 }
 
 // blame tells assumptions that cannot be met together, the given one, which is false, among them.
 func (s *search) blame(lit int) []int {
+	s.record.used = s.grounds(s.record.used, []int{lit})
 	s.marks[unit.Variable(lit)] = true
 	trail := s.state.Trail()
 	for at := len(trail) - 1; at >= 0 && s.state.LevelOf(trail[at]) > 0; at-- {
@@ -103,6 +109,7 @@ func (s *search) blame(lit int) []int {
 		if reason == unit.None || !s.marks[unit.Variable(trail[at])] {
 			continue
 		}
+		s.record.use(reason)
 		for _, other := range s.state.Lits(reason) {
 			s.marks[unit.Variable(other)] = true
 		}

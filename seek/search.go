@@ -1,10 +1,43 @@
-package sat
+// Package seek looks for an assignment under which clauses and assumptions are true and a theory has no objection: the search that learns clauses, for sat, and for quest, whose theory says too on which side it sees a variable.
+package seek
 
 import (
 	"arbiter/api"
+	"arbiter/cnf"
 	"arbiter/order"
 	"arbiter/unit"
 )
+
+// Hook is a theory beside the clauses; a field that is nil is not called.
+type Hook struct {
+	Assert func(lit int)                        // the literal has become true
+	Undo   func(n int)                          // the last n literals are taken back
+	Check  func(trail []int, full bool) [][]int // clauses that hold in the theory
+	Side   func(v int) int                      // on which side it sees a variable: true (1), false (-1), neither (0)
+}
+
+// Solve looks for an assignment of the variables 1 to vars. All numbers in the clauses and the assumptions are literals of these.
+func Solve(vars int, clauses [][]int, assume []int, h Hook) api.Outcome {
+	s := newSearch(vars, assume, h)
+	if s.run(clauses) == refuted {
+		return api.Outcome{Steps: s.steps(), Failed: s.failed}
+	}
+	return api.Outcome{Sat: true, Lits: s.assignment()}
+}
+
+// steps tells the steps that are needed.
+func (s *search) steps() []api.Step {
+	var list []api.Step
+	for _, number := range s.told(s.needed()) {
+		list = append(list, s.record.list[number])
+	}
+	return list
+}
+
+// AreLiterals tells whether all of a list are literals of the variables 1 to vars.
+func AreLiterals(list []int, vars int) bool {
+	return cnf.Check(api.Cnf{Vars: vars, Tops: list}) == api.OK
+}
 
 // answer is how far a search has come.
 type answer int
@@ -22,12 +55,13 @@ const pace = 64
 type search struct {
 	vars      int
 	assume    []int // each once
+	premises  []int // assumptions that are taken as clauses
 	state     *unit.State
 	order     *order.Order
 	theory    theory
 	memory    memory
 	marks     []bool // by variable: a conflict has touched it
-	steps     []api.Step
+	record    record
 	failed    []int
 	restarts  int
 	conflicts int // since it began anew
@@ -64,7 +98,12 @@ func (s *search) wait() {
 
 func (s *search) run(clauses [][]int) answer {
 	for _, clause := range clauses {
-		if s.heed(s.state.Put(unit.Once(clause))) == refuted {
+		if s.heed(s.put(unit.Once(clause), none)) == refuted {
+			return refuted
+		}
+	}
+	for _, lit := range s.premises {
+		if s.heed(s.put([]int{lit}, premise)) == refuted {
 			return refuted
 		}
 	}
@@ -113,14 +152,18 @@ func (s *search) anew() {
 	s.forget()
 }
 
-// decide holds the literal of the next variable on the side on which it stood last.
+// decide holds the literal of the next variable on the side on which the theory sees it, or else on that on which it stood last.
 func (s *search) decide() {
 	v := s.order.Take()
 	for s.state.Value(v) != 0 {
 		v = s.order.Take()
 	}
+	up, _ := s.order.Phase(v)
+	if side := s.theory.side(v); side != 0 {
+		up = side > 0
+	}
 	s.state.Open()
-	if up, _ := s.order.Phase(v); up {
+	if up {
 		s.state.Hold(v, unit.None)
 	} else {
 		s.state.Hold(-v, unit.None)
@@ -146,6 +189,7 @@ func (s *search) back(level int) {
 func (s *search) heed(clause int) answer {
 	lits := s.state.Lits(clause)
 	if len(lits) == 0 {
+		s.record.use(clause)
 		return refuted
 	}
 	level := 0
